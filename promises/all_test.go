@@ -6,21 +6,34 @@ import (
 	"testing"
 
 	"glebe/api"
+	"glebe/chain"
 	"glebe/flow"
 	"glebe/op"
 	"glebe/prog"
+	"glebe/state"
+	"glebe/trim"
 )
 
 // told is all that the calls answer of p and f.
 func told(p []api.Func, f int) string {
 	heights, e := flow.Heights(p, f)
 	calls, g := prog.Calls(p, f)
-	s := fmt.Sprint(op.Check(p, f), prog.Check(p), len(heights), heights, e, len(calls), calls, g)
+	trimmed, h := trim.Func(p, f)
+	all, i := trim.All(p)
+	begin, j := state.Begin(p)
+	s := fmt.Sprint(op.Check(p, f), prog.Check(p), len(heights), heights, e, len(calls), calls, g, trimmed, h, all, i, begin, j)
 	for _, x := range []api.Op{o(api.Call, f), o(f, 0), o(api.Add, f)} {
 		takes, leaves, e := op.Effect(p, x)
 		s += fmt.Sprint(";", takes, leaves, e)
 	}
 	return s
+}
+
+// toldOf is all that the calls answer of p, s and n.
+func toldOf(p []api.Func, s api.State, n int) string {
+	line, e := chain.Line(p, s)
+	kind, g := chain.Kind(p, s, n)
+	return fmt.Sprint(state.Check(p, s), line, e, kind, g)
 }
 
 // wild is a program of numbers that are anything.
@@ -59,6 +72,50 @@ func spoilt(r *rand.Rand) []api.Func {
 	return p
 }
 
+// wildState is a state of numbers that are anything.
+func wildState(r *rand.Rand) api.State {
+	some := func() int { return far()[r.Intn(len(far()))] }
+	s := api.State{Fibers: make([]api.Fiber, r.Intn(7)), Now: some(), Out: make([]int, r.Intn(33))}
+	for n := range s.Fibers {
+		s.Fibers[n] = api.Fiber{Frames: make([]api.Frame, r.Intn(8)), Caller: some()}
+		for k := range s.Fibers[n].Frames {
+			s.Fibers[n].Frames[k] = frame(some(), some(), make([]int, r.Intn(6)), make([]int, r.Intn(10)))
+		}
+	}
+	return s
+}
+
+// spoiltState is a program, and a state of it, or one that it has come to, changed by some numbers that are anything.
+func spoiltState(r *rand.Rand) ([]api.Func, api.State) {
+	some := func() int { return far()[r.Intn(len(far()))] }
+	p, s := count(), four()
+	if r.Intn(2) == 0 {
+		p = built(r)
+		l := reachedStates(p, 40)
+		s = cloneState(l[len(l)-1])
+	}
+	b := &s.Fibers[r.Intn(len(s.Fibers))]
+	switch r.Intn(8) {
+	case 0:
+		s.Now = some()
+	case 1:
+		b.Caller = some()
+	case 2:
+		disturb(r, p, &s)
+	case 3:
+		p = spoilt(r)
+	case 4, 5:
+		if len(b.Frames) > 0 {
+			b.Frames[0].Func = some()
+		}
+	case 6:
+		if len(b.Frames) > 0 {
+			b.Frames[len(b.Frames)-1].At = some()
+		}
+	}
+	return p, s
+}
+
 // P1: nothing panics, and with an error all else is its zero value.
 func TestP1(t *testing.T) {
 	r := rand.New(rand.NewSource(5))
@@ -74,11 +131,39 @@ func TestP1(t *testing.T) {
 			if l, e := prog.Calls(p, f); e != api.OK && len(l) != 0 {
 				t.Fatalf("%v, function %d: calls %v %d", p, f, l, e)
 			}
+			if g, e := trim.Func(p, f); e != api.OK && !isNoFunc(g) {
+				t.Fatalf("%v, function %d: trimmed %v %d", p, f, g, e)
+			}
 			x := o(r.Intn(20)-1, f)
 			if takes, leaves, e := op.Effect(p, x); e != api.OK && (takes != 0 || leaves != 0) {
 				t.Fatalf("%v, %v: effect %d %d %d", p, x, takes, leaves, e)
 			}
 			told(p, f)
+		}
+		if l, e := trim.All(p); e != api.OK && len(l) != 0 {
+			t.Fatalf("%v: all trimmed %v %d", p, l, e)
+		}
+		if s, e := state.Begin(p); e != api.OK && !isNoState(s) {
+			t.Fatalf("%v: begins %v %d", p, s, e)
+		}
+	}
+}
+
+func TestP1States(t *testing.T) {
+	r := rand.New(rand.NewSource(8))
+	for i := range 6000 {
+		p, s := spoiltState(r)
+		if i%2 == 0 {
+			s = wildState(r)
+		}
+		if l, e := chain.Line(p, s); e != api.OK && len(l) != 0 {
+			t.Fatalf("%v at %v: line %v %d", p, s, l, e)
+		}
+		for _, n := range []int{far()[r.Intn(len(far()))], r.Intn(4)} {
+			if k, e := chain.Kind(p, s, n); e != api.OK && k != 0 {
+				t.Fatalf("%v at %v: kind %d %d", p, s, k, e)
+			}
+			toldOf(p, s, n)
 		}
 	}
 }
@@ -94,6 +179,24 @@ func TestP2OnlyRead(t *testing.T) {
 		}
 		if !samePrograms(wholly(p), before) {
 			t.Fatalf("%v became %v", before, wholly(p))
+		}
+	}
+}
+
+func TestP2OnlyReadStates(t *testing.T) {
+	r := rand.New(rand.NewSource(9))
+	for range 1000 {
+		p, s := spoiltState(r)
+		p, s = roomy(p), roomyState(s)
+		before, was := wholly(p), fmt.Sprint(whollyState(s))
+		for n := -1; n <= len(s.Fibers); n++ {
+			toldOf(p, s, n)
+		}
+		if !samePrograms(wholly(p), before) {
+			t.Fatalf("%v became %v", before, wholly(p))
+		}
+		if now := fmt.Sprint(whollyState(s)); now != was {
+			t.Fatalf("%s became %s", was, now)
 		}
 	}
 }
@@ -137,6 +240,66 @@ func TestP2AnswersAreTheCallers(t *testing.T) {
 	}
 }
 
+// listsOf are all lists of numbers and of ops that the calls answer of p and s, with their spare room.
+func listsOf(p []api.Func, s api.State) ([][]int, [][]api.Op) {
+	var codes [][]api.Op
+	all, _ := trim.All(p)
+	for f, g := range all {
+		same, _ := trim.Func(p, f)
+		codes = append(codes, g.Code[:cap(g.Code)], same.Code[:cap(same.Code)])
+	}
+	var lists [][]int
+	for range 2 {
+		begin, _ := state.Begin(p)
+		line, _ := chain.Line(p, s)
+		x := begin.Fibers[0].Frames[0]
+		lists = append(lists, begin.Out[:cap(begin.Out)], x.Locals[:cap(x.Locals)], x.Stack[:cap(x.Stack)], line[:cap(line)])
+	}
+	return lists, codes
+}
+
+// P2: no two lists of answers share memory, and none does with what was handed in.
+func TestP2NothingIsShared(t *testing.T) {
+	p, s := roomy(count()), roomyState(four())
+	before, was := wholly(p), fmt.Sprint(whollyState(s))
+	lists, codes := listsOf(p, s)
+	for i := range lists {
+		others := fmt.Sprint(lists[:i], lists[i+1:])
+		for k := range lists[i] {
+			lists[i][k] -= 55
+		}
+		if fmt.Sprint(lists[:i], lists[i+1:]) != others {
+			t.Errorf("list %d shares memory with another one", i)
+		}
+	}
+	for i := range codes {
+		others := fmt.Sprint(codes[:i], codes[i+1:])
+		for k := range codes[i] {
+			codes[i][k].A -= 55
+		}
+		if fmt.Sprint(codes[:i], codes[i+1:]) != others {
+			t.Errorf("code %d shares memory with another one", i)
+		}
+	}
+	if !samePrograms(wholly(p), before) || fmt.Sprint(whollyState(s)) != was {
+		t.Errorf("an answer shares memory with what was handed in: %v, %v", wholly(p), whollyState(s))
+	}
+	// What was handed in may change too.
+	lists, codes = listsOf(p, s)
+	answers := fmt.Sprint(lists, codes)
+	for f := range p {
+		clear(p[f].Code[:cap(p[f].Code)])
+	}
+	clear(p)
+	for _, b := range s.Fibers {
+		clear(b.Frames)
+	}
+	clear(s.Fibers)
+	if now := fmt.Sprint(lists, codes); now != answers {
+		t.Errorf("%s became %s", answers, now)
+	}
+}
+
 // P2: an empty list may be nil or not.
 func TestP2Empty(t *testing.T) {
 	for f := -1; f < 2; f++ {
@@ -146,6 +309,22 @@ func TestP2Empty(t *testing.T) {
 		p, q := []api.Func{{Code: nil}}, []api.Func{{Code: []api.Op{}}}
 		if a, b := told(p, f), told(q, f); a != b {
 			t.Errorf("no ops: %s, %s", a, b)
+		}
+	}
+}
+
+func TestP2EmptyStates(t *testing.T) {
+	no := []int{}
+	rows := [][2]api.State{
+		{{}, {Fibers: []api.Fiber{}, Out: no}},
+		{begun(many(1)), {Fibers: []api.Fiber{fiber(-1, frame(0, 0, no, no))}, Out: no}},
+		{{Fibers: []api.Fiber{fiber(-1)}, Now: -1}, {Fibers: []api.Fiber{{Frames: []api.Frame{}, Caller: -1}}, Now: -1, Out: no}},
+	}
+	for _, row := range rows {
+		for n := -1; n < 2; n++ {
+			if a, b := toldOf(many(1), row[0], n), toldOf(many(1), row[1], n); a != b {
+				t.Errorf("%v: %s, %s", row[0], a, b)
+			}
 		}
 	}
 }
@@ -163,6 +342,23 @@ func TestP3(t *testing.T) {
 	for _, i := range r.Perm(len(programs)) {
 		if s := told(roomy(clone(programs[i])), 1); s != first[i] {
 			t.Fatalf("%v: first %s, then %s", programs[i], first[i], s)
+		}
+	}
+}
+
+func TestP3States(t *testing.T) {
+	r := rand.New(rand.NewSource(10))
+	var programs [][]api.Func
+	var states []api.State
+	var first []string
+	for range 300 {
+		p, s := spoiltState(r)
+		programs, states = append(programs, p), append(states, s)
+		first = append(first, toldOf(p, s, 1))
+	}
+	for _, i := range r.Perm(len(programs)) {
+		if s := toldOf(roomy(programs[i]), roomyState(states[i]), 1); s != first[i] {
+			t.Fatalf("%v at %v: first %s, then %s", programs[i], states[i], first[i], s)
 		}
 	}
 }

@@ -85,6 +85,50 @@ func wholly(p []api.Func) []api.Func {
 	return q
 }
 
+// cloneState has what s has, in memory of its own.
+func cloneState(s api.State) api.State {
+	s.Out = slices.Clone(s.Out)
+	s.Fibers = slices.Clone(s.Fibers)
+	for n := range s.Fibers {
+		frames := slices.Clone(s.Fibers[n].Frames)
+		for k := range frames {
+			frames[k].Locals, frames[k].Stack = slices.Clone(frames[k].Locals), slices.Clone(frames[k].Stack)
+		}
+		s.Fibers[n].Frames = frames
+	}
+	return s
+}
+
+// roomyState has what s has, and behind each list spare room with something in it.
+func roomyState(s api.State) api.State {
+	more := func(l []int) []int { return append(slices.Clone(l), -81, -82, -83)[:len(l)] }
+	var fibers []api.Fiber
+	for _, b := range s.Fibers {
+		var frames []api.Frame
+		for _, x := range b.Frames {
+			frames = append(frames, api.Frame{Func: x.Func, At: x.At, Locals: more(x.Locals), Stack: more(x.Stack)})
+		}
+		frames = append(frames, api.Frame{Func: -84, Locals: []int{-85}}, api.Frame{At: -86})
+		fibers = append(fibers, api.Fiber{Frames: frames[:len(b.Frames)], Caller: b.Caller})
+	}
+	fibers = append(fibers, api.Fiber{Caller: -87}, api.Fiber{Caller: -88})
+	return api.State{Fibers: fibers[:len(s.Fibers)], Now: s.Now, Out: more(s.Out)}
+}
+
+// whollyState is s with all its spare room.
+func whollyState(s api.State) api.State {
+	s.Out = s.Out[:cap(s.Out)]
+	s.Fibers = slices.Clone(s.Fibers[:cap(s.Fibers)])
+	for n := range s.Fibers {
+		frames := slices.Clone(s.Fibers[n].Frames[:cap(s.Fibers[n].Frames)])
+		for k, x := range frames {
+			frames[k].Locals, frames[k].Stack = x.Locals[:cap(x.Locals)], x.Stack[:cap(x.Stack)]
+		}
+		s.Fibers[n].Frames = frames
+	}
+	return s
+}
+
 // drawn is a program drawn by r, whose ops are right but for some Makes; of many functions there are heights.
 func drawn(r *rand.Rand) []api.Func {
 	p := make([]api.Func, 1+r.Intn(4))
