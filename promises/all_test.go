@@ -10,7 +10,9 @@ import (
 	"glebe/flow"
 	"glebe/op"
 	"glebe/prog"
+	"glebe/run"
 	"glebe/state"
+	"glebe/step"
 	"glebe/trim"
 )
 
@@ -22,6 +24,10 @@ func told(p []api.Func, f int) string {
 	all, i := trim.All(p)
 	begin, j := state.Begin(p)
 	s := fmt.Sprint(op.Check(p, f), prog.Check(p), len(heights), heights, e, len(calls), calls, g, trimmed, h, all, i, begin, j)
+	for _, fuel := range []int{f, 30} {
+		out, steps, e := run.All(p, fuel)
+		s += fmt.Sprint(";", out, steps, e)
+	}
 	for _, x := range []api.Op{o(api.Call, f), o(f, 0), o(api.Add, f)} {
 		takes, leaves, e := op.Effect(p, x)
 		s += fmt.Sprint(";", takes, leaves, e)
@@ -33,7 +39,13 @@ func told(p []api.Func, f int) string {
 func toldOf(p []api.Func, s api.State, n int) string {
 	line, e := chain.Line(p, s)
 	kind, g := chain.Kind(p, s, n)
-	return fmt.Sprint(state.Check(p, s), line, e, kind, g)
+	next, h := step.Do(p, s)
+	text := fmt.Sprint(state.Check(p, s), line, e, kind, g, next, h)
+	for _, fuel := range []int{n, 0, 30} {
+		end, steps, e := run.Run(p, s, fuel)
+		text += fmt.Sprint(";", end, steps, e)
+	}
+	return text
 }
 
 // wild is a program of numbers that are anything.
@@ -146,6 +158,9 @@ func TestP1(t *testing.T) {
 		if s, e := state.Begin(p); e != api.OK && !isNoState(s) {
 			t.Fatalf("%v: begins %v %d", p, s, e)
 		}
+		if l, n, e := run.All(p, 30); prog.Check(p) != api.OK && (len(l) != 0 || n != 0 || e != prog.Check(p)) {
+			t.Fatalf("%v: ran %v %d %d", p, l, n, e)
+		}
 	}
 }
 
@@ -164,6 +179,12 @@ func TestP1States(t *testing.T) {
 				t.Fatalf("%v at %v: kind %d %d", p, s, k, e)
 			}
 			toldOf(p, s, n)
+		}
+		if next, e := step.Do(p, s); e != api.OK && !isNoState(next) {
+			t.Fatalf("%v at %v: step %v %d", p, s, next, e)
+		}
+		if end, n, e := run.Run(p, s, 30); state.Check(p, s) != api.OK && (!isNoState(end) || n != 0 || e != state.Check(p, s)) {
+			t.Fatalf("%v at %v: ran %v %d %d", p, s, end, n, e)
 		}
 	}
 }
@@ -297,6 +318,55 @@ func TestP2NothingIsShared(t *testing.T) {
 	clear(s.Fibers)
 	if now := fmt.Sprint(lists, codes); now != answers {
 		t.Errorf("%s became %s", answers, now)
+	}
+}
+
+// placesOf are the addresses of all that lies in the lists of s, their spare room too.
+func placesOf(s api.State) []any {
+	var l []any
+	numbers := func(list []int) {
+		for k := range list[:cap(list)] {
+			l = append(l, &list[:cap(list)][k])
+		}
+	}
+	numbers(s.Out)
+	for n := range s.Fibers[:cap(s.Fibers)] {
+		l = append(l, &s.Fibers[:cap(s.Fibers)][n])
+	}
+	for _, b := range s.Fibers {
+		for k := range b.Frames[:cap(b.Frames)] {
+			l = append(l, &b.Frames[:cap(b.Frames)][k])
+		}
+		for _, x := range b.Frames {
+			numbers(x.Locals)
+			numbers(x.Stack)
+		}
+	}
+	return l
+}
+
+// P2: a state that comes out is new memory, all of it, whether steps were done or not.
+func TestP2StatesAreNew(t *testing.T) {
+	r := rand.New(rand.NewSource(19))
+	for range 2000 {
+		p := built(r)
+		s := roomyState(rightState(r, p))
+		next, _ := step.Do(p, s)
+		answers := []api.State{s, next}
+		for _, fuel := range []int{0, 0, 1, 2, 30, 30} {
+			end, _, _ := run.Run(p, s, fuel)
+			out, _, _ := run.All(p, fuel)
+			answers = append(answers, end, api.State{Out: out})
+		}
+		lies := map[any]int{}
+		for i, one := range answers {
+			for _, place := range placesOf(one) {
+				if k, ok := lies[place]; ok {
+					t.Fatalf("%v at %s: answers %d and %d share memory", p, shown(s), k, i)
+				}
+				lies[place] = i
+			}
+		}
 	}
 }
 

@@ -25,7 +25,7 @@ func built(r *rand.Rand) []api.Func {
 		}
 	}
 	for f := range p {
-		p[f].Locals = p[f].Args + r.Intn(api.MaxLocals-p[f].Args) + 1
+		p[f].Locals = max(1, p[f].Args+r.Intn(api.MaxLocals-p[f].Args+1))
 	}
 	for f := range p {
 		for len(p[f].Code) == 0 || len(p[f].Code) > api.MaxOps {
