@@ -7,10 +7,12 @@ import (
 
 	"glebe/api"
 	"glebe/chain"
+	"glebe/expr"
 	"glebe/flow"
 	"glebe/op"
 	"glebe/prog"
 	"glebe/run"
+	"glebe/save"
 	"glebe/state"
 	"glebe/step"
 	"glebe/trim"
@@ -28,6 +30,10 @@ func told(p []api.Func, f int) string {
 		out, steps, e := run.All(p, fuel)
 		s += fmt.Sprint(";", out, steps, e)
 	}
+	for _, b := range []string{"", bytesOf(four()), "\x00\x01\x00\x00\x00"} {
+		back, e := save.Read(p, b)
+		s += fmt.Sprint(";", back, e)
+	}
 	for _, x := range []api.Op{o(api.Call, f), o(f, 0), o(api.Add, f)} {
 		takes, leaves, e := op.Effect(p, x)
 		s += fmt.Sprint(";", takes, leaves, e)
@@ -40,12 +46,27 @@ func toldOf(p []api.Func, s api.State, n int) string {
 	line, e := chain.Line(p, s)
 	kind, g := chain.Kind(p, s, n)
 	next, h := step.Do(p, s)
-	text := fmt.Sprint(state.Check(p, s), line, e, kind, g, next, h)
+	b, i := save.Write(p, s)
+	back, j := save.Read(p, b)
+	text := fmt.Sprint(state.Check(p, s), line, e, kind, g, next, h, b, i, back, j)
 	for _, fuel := range []int{n, 0, 30} {
 		end, steps, e := run.Run(p, s, fuel)
 		text += fmt.Sprint(";", end, steps, e)
 	}
 	return text
+}
+
+// toldOfExpr is all that the calls answer of e and vals.
+func toldOfExpr(e []api.Node, vals []int) string {
+	v, wrong := expr.Value(e, vals)
+	return fmt.Sprint(expr.Check(e, len(vals)), expr.Check(e, 2), v, wrong)
+}
+
+// roomyExpr has what e and vals have, and behind each spare room with something in it.
+func roomyExpr(e []api.Node, vals []int) ([]api.Node, []int) {
+	more := append(append([]api.Node{}, e...), node(-89, -90), node(-91, -92))
+	others := append(append([]int{}, vals...), -93, -94)
+	return more[:len(e)], others[:len(vals)]
 }
 
 // wild is a program of numbers that are anything.
@@ -183,8 +204,48 @@ func TestP1States(t *testing.T) {
 		if next, e := step.Do(p, s); e != api.OK && !isNoState(next) {
 			t.Fatalf("%v at %v: step %v %d", p, s, next, e)
 		}
+		if b, e := save.Write(p, s); e != api.OK && b != "" {
+			t.Fatalf("%v at %v: written %q %d", p, s, b, e)
+		}
+		b := turnedBytes(r, bytesOf(s))
+		if back, e := save.Read(p, b); e != api.OK && !isNoState(back) {
+			t.Fatalf("%v, %q: read %v %d", p, b, back, e)
+		}
 		if end, n, e := run.Run(p, s, 30); state.Check(p, s) != api.OK && (!isNoState(end) || n != 0 || e != state.Check(p, s)) {
 			t.Fatalf("%v at %v: ran %v %d %d", p, s, end, n, e)
+		}
+	}
+}
+
+// P1: bytes that are anything are read, or not, and no more.
+func TestP1Bytes(t *testing.T) {
+	r := rand.New(rand.NewSource(24))
+	for range 20000 {
+		b := make([]byte, r.Intn(60))
+		top := 1 + r.Intn(256)
+		for i := range b {
+			b[i] = byte(r.Intn(top))
+		}
+		p := spoilt(r)
+		if s, e := save.Read(p, string(b)); e != api.OK && !isNoState(s) {
+			t.Fatalf("%v, %q: %v %d", p, b, s, e)
+		}
+	}
+}
+
+func TestP1Exprs(t *testing.T) {
+	r := rand.New(rand.NewSource(25))
+	for i := range 20000 {
+		e, vals := spoiltExpr(r)
+		if i%2 == 0 {
+			e = make([]api.Node, r.Intn(12))
+			for k := range e {
+				e[k] = node(r.Intn(9), far()[r.Intn(len(far()))])
+			}
+		}
+		expr.Check(e, far()[r.Intn(len(far()))])
+		if v, wrong := expr.Value(e, vals); wrong != api.OK && v != 0 {
+			t.Fatalf("%v with %v: %d %d", e, vals, v, wrong)
 		}
 	}
 }
@@ -218,6 +279,18 @@ func TestP2OnlyReadStates(t *testing.T) {
 		}
 		if now := fmt.Sprint(whollyState(s)); now != was {
 			t.Fatalf("%s became %s", was, now)
+		}
+	}
+}
+
+func TestP2OnlyReadExprs(t *testing.T) {
+	r := rand.New(rand.NewSource(26))
+	for range 3000 {
+		e, vals := roomyExpr(spoiltExpr(r))
+		before := fmt.Sprint(e[:cap(e)], vals[:cap(vals)])
+		toldOfExpr(e, vals)
+		if now := fmt.Sprint(e[:cap(e)], vals[:cap(vals)]); now != before {
+			t.Fatalf("%s became %s", before, now)
 		}
 	}
 }
@@ -353,6 +426,10 @@ func TestP2StatesAreNew(t *testing.T) {
 		s := roomyState(rightState(r, p))
 		next, _ := step.Do(p, s)
 		answers := []api.State{s, next}
+		for range 2 {
+			back, _ := save.Read(p, bytesOf(s))
+			answers = append(answers, back)
+		}
 		for _, fuel := range []int{0, 0, 1, 2, 30, 30} {
 			end, _, _ := run.Run(p, s, fuel)
 			out, _, _ := run.All(p, fuel)
@@ -399,6 +476,17 @@ func TestP2EmptyStates(t *testing.T) {
 	}
 }
 
+func TestP2EmptyExprs(t *testing.T) {
+	for _, e := range [][]api.Node{num(5), nine()} {
+		if a, b := toldOfExpr(e, nil), toldOfExpr(e, []int{}); a != b {
+			t.Errorf("no locals: %s, %s", a, b)
+		}
+	}
+	if a, b := toldOfExpr(nil, []int{1}), toldOfExpr([]api.Node{}, []int{1}); a != b {
+		t.Errorf("no nodes: %s, %s", a, b)
+	}
+}
+
 // P3: what is answered hangs neither on what was asked before, nor on where it lies and what room there is behind it.
 func TestP3(t *testing.T) {
 	r := rand.New(rand.NewSource(7))
@@ -429,6 +517,23 @@ func TestP3States(t *testing.T) {
 	for _, i := range r.Perm(len(programs)) {
 		if s := toldOf(roomy(programs[i]), roomyState(states[i]), 1); s != first[i] {
 			t.Fatalf("%v at %v: first %s, then %s", programs[i], states[i], first[i], s)
+		}
+	}
+}
+
+func TestP3Exprs(t *testing.T) {
+	r := rand.New(rand.NewSource(27))
+	var lists [][]api.Node
+	var locals [][]int
+	var first []string
+	for range 1000 {
+		e, vals := spoiltExpr(r)
+		lists, locals = append(lists, e), append(locals, vals)
+		first = append(first, toldOfExpr(e, vals))
+	}
+	for _, i := range r.Perm(len(lists)) {
+		if s := toldOfExpr(roomyExpr(lists[i], locals[i])); s != first[i] {
+			t.Fatalf("%v with %v: first %s, then %s", lists[i], locals[i], first[i], s)
 		}
 	}
 }
