@@ -3,18 +3,23 @@ package promises
 import (
 	"fmt"
 	"math/rand"
+	"slices"
+	"strings"
 	"testing"
 
 	"glebe/api"
 	"glebe/chain"
+	"glebe/desk"
 	"glebe/expr"
 	"glebe/flow"
+	"glebe/forge"
 	"glebe/op"
 	"glebe/prog"
 	"glebe/run"
 	"glebe/save"
 	"glebe/state"
 	"glebe/step"
+	"glebe/text"
 	"glebe/trim"
 )
 
@@ -25,7 +30,8 @@ func told(p []api.Func, f int) string {
 	trimmed, h := trim.Func(p, f)
 	all, i := trim.All(p)
 	begin, j := state.Begin(p)
-	s := fmt.Sprint(op.Check(p, f), prog.Check(p), len(heights), heights, e, len(calls), calls, g, trimmed, h, all, i, begin, j)
+	lines, k := text.Show(p)
+	s := fmt.Sprint(op.Check(p, f), prog.Check(p), len(heights), heights, e, len(calls), calls, g, trimmed, h, all, i, begin, j, lines, k)
 	for _, fuel := range []int{f, 30} {
 		out, steps, e := run.All(p, fuel)
 		s += fmt.Sprint(";", out, steps, e)
@@ -48,18 +54,56 @@ func toldOf(p []api.Func, s api.State, n int) string {
 	next, h := step.Do(p, s)
 	b, i := save.Write(p, s)
 	back, j := save.Read(p, b)
-	text := fmt.Sprint(state.Check(p, s), line, e, kind, g, next, h, b, i, back, j)
+	all := fmt.Sprint(state.Check(p, s), line, e, kind, g, next, h, b, i, back, j)
 	for _, fuel := range []int{n, 0, 30} {
 		end, steps, e := run.Run(p, s, fuel)
-		text += fmt.Sprint(";", end, steps, e)
+		all += fmt.Sprint(";", end, steps, e)
 	}
-	return text
+	return all
 }
 
 // toldOfExpr is all that the calls answer of e and vals.
 func toldOfExpr(e []api.Node, vals []int) string {
 	v, wrong := expr.Value(e, vals)
-	return fmt.Sprint(expr.Check(e, len(vals)), expr.Check(e, 2), v, wrong)
+	f, g := forge.Func(e, len(vals))
+	p, h := forge.Prog(e, vals)
+	return fmt.Sprint(expr.Check(e, len(vals)), expr.Check(e, 2), v, wrong, f, g, p, h)
+}
+
+// toldOfTexts is all that the calls answer of the program s and the script t.
+func toldOfTexts(s, t string) string {
+	p, e := text.Read(s)
+	given, g := desk.Play(s, t)
+	return fmt.Sprint(p, e, given, g)
+}
+
+// wildText is a text of any bytes, or of bytes that stand in programs and scripts.
+func wildText(r *rand.Rand) string {
+	const some = "func 0 1\npush 2\nreturn\nstep heights out line"
+	b := make([]byte, r.Intn(80))
+	for i := range b {
+		b[i] = byte(r.Intn(256))
+		if r.Intn(8) > 0 {
+			b[i] = some[r.Intn(len(some))]
+		}
+	}
+	return string(b)
+}
+
+// spoiltTexts are a program and a script, mostly with something in them that is not as it must be.
+func spoiltTexts(r *rand.Rand) (string, string) {
+	s, t := textOf(built(r)), strings.Join(drawnScript(r), "\n")+"\n"
+	switch r.Intn(6) {
+	case 0:
+		s = turnedText(r, s)
+	case 1:
+		t = turnedText(r, t)
+	case 2:
+		t = wildText(r)
+	case 3:
+		s = wildText(r)
+	}
+	return s, t
 }
 
 // roomyExpr has what e and vals have, and behind each spare room with something in it.
@@ -179,6 +223,9 @@ func TestP1(t *testing.T) {
 		if s, e := state.Begin(p); e != api.OK && !isNoState(s) {
 			t.Fatalf("%v: begins %v %d", p, s, e)
 		}
+		if lines, e := text.Show(p); e != api.OK && lines != "" {
+			t.Fatalf("%v: shown %q %d", p, lines, e)
+		}
 		if l, n, e := run.All(p, 30); prog.Check(p) != api.OK && (len(l) != 0 || n != 0 || e != prog.Check(p)) {
 			t.Fatalf("%v: ran %v %d %d", p, l, n, e)
 		}
@@ -243,9 +290,32 @@ func TestP1Exprs(t *testing.T) {
 				e[k] = node(r.Intn(9), far()[r.Intn(len(far()))])
 			}
 		}
-		expr.Check(e, far()[r.Intn(len(far()))])
+		locals := far()[r.Intn(len(far()))]
+		expr.Check(e, locals)
 		if v, wrong := expr.Value(e, vals); wrong != api.OK && v != 0 {
 			t.Fatalf("%v with %v: %d %d", e, vals, v, wrong)
+		}
+		if f, wrong := forge.Func(e, locals); wrong != api.OK && !isNoFunc(f) {
+			t.Fatalf("%v with %d locals: %v %d", e, locals, f, wrong)
+		}
+		if p, wrong := forge.Prog(e, vals); wrong != api.OK && len(p) != 0 {
+			t.Fatalf("%v with %v: %v %d", e, vals, p, wrong)
+		}
+	}
+}
+
+// P1: texts that are anything are read and played, or not, and no more.
+func TestP1Texts(t *testing.T) {
+	r := rand.New(rand.NewSource(42))
+	for range 10000 {
+		s, script := spoiltTexts(r)
+		p, e := text.Read(s)
+		if e != api.OK && len(p) != 0 {
+			t.Fatalf("%q: read %v %d", s, p, e)
+		}
+		given, g := desk.Play(s, script)
+		if g != api.OK && given != "" || e != api.OK && g != e {
+			t.Fatalf("%q, %q: read %d, given %q %d", s, script, e, given, g)
 		}
 	}
 }
@@ -447,6 +517,42 @@ func TestP2StatesAreNew(t *testing.T) {
 	}
 }
 
+// placesOfProgram are the addresses of all that lies in the lists of p, their spare room too.
+func placesOfProgram(p []api.Func) []any {
+	var l []any
+	for f := range p[:cap(p)] {
+		l = append(l, &p[:cap(p)][f])
+	}
+	for _, f := range p {
+		for at := range f.Code[:cap(f.Code)] {
+			l = append(l, &f.Code[:cap(f.Code)][at])
+		}
+	}
+	return l
+}
+
+// P2: a program that comes out is new memory, all of it.
+func TestP2ProgramsAreNew(t *testing.T) {
+	r := rand.New(rand.NewSource(43))
+	for range 1000 {
+		vals := smallVals(r, r.Intn(5))
+		e := drawnTree(r, 9, len(vals)).list()
+		s := textOf(built(r))
+		lies := map[any]bool{}
+		for range 2 {
+			f, _ := forge.Func(e, len(vals))
+			p, _ := forge.Prog(e, vals)
+			q, _ := text.Read(s)
+			for _, place := range slices.Concat(placesOfProgram([]api.Func{f}), placesOfProgram(p), placesOfProgram(q)) {
+				if lies[place] {
+					t.Fatalf("%v with %v, %q: two lists share memory", e, vals, s)
+				}
+				lies[place] = true
+			}
+		}
+	}
+}
+
 // P2: an empty list may be nil or not.
 func TestP2Empty(t *testing.T) {
 	for f := -1; f < 2; f++ {
@@ -534,6 +640,22 @@ func TestP3Exprs(t *testing.T) {
 	for _, i := range r.Perm(len(lists)) {
 		if s := toldOfExpr(roomyExpr(lists[i], locals[i])); s != first[i] {
 			t.Fatalf("%v with %v: first %s, then %s", lists[i], locals[i], first[i], s)
+		}
+	}
+}
+
+func TestP3Texts(t *testing.T) {
+	r := rand.New(rand.NewSource(44))
+	var programs, scripts, first []string
+	for range 1000 {
+		s, script := spoiltTexts(r)
+		programs, scripts = append(programs, s), append(scripts, script)
+		first = append(first, toldOfTexts(s, script))
+	}
+	for _, i := range r.Perm(len(programs)) {
+		s, script := strings.Clone(programs[i]), (scripts[i] + "more")[:len(scripts[i])]
+		if now := toldOfTexts(s, script); now != first[i] {
+			t.Fatalf("%q, %q: first %s, then %s", s, script, first[i], now)
 		}
 	}
 }

@@ -415,7 +415,7 @@ func TestG3Drawn(t *testing.T) {
 		}
 		answers[e]++
 		if e == api.OK {
-			kinds[kindOfNext(p, s)]++
+			kinds[opOf(p, s).Kind]++
 			if e := state.Check(p, got); e != api.OK {
 				t.Fatalf("%v at %s: what comes of it, %s, is not right: %d", p, shown(s), shown(got), e)
 			}
@@ -430,10 +430,4 @@ func TestG3Drawn(t *testing.T) {
 	if len(answers) > 0 || slices.Min(kinds) < 50 {
 		t.Errorf("other errors %v; kinds of ops were done %v times", answers, kinds)
 	}
-}
-
-func kindOfNext(p []api.Func, s api.State) int {
-	frames := s.Fibers[s.Now].Frames
-	x := frames[len(frames)-1]
-	return p[x.Func].Code[x.At].Kind
 }
